@@ -2,96 +2,40 @@ package tests
 
 import (
 	"math"
-	"reflect"
 	"slices"
 	"testing"
 
 	"loop.example/g01270/impl"
 )
 
-// args are all arguments that a function of chapter 1 may take.
-type args struct {
-	rod  impl.Rod
-	ant  int
-	time int
-	more impl.Ant
-	text string
+// rodArgs are all arguments that a function of chapter 1 may take.
+type rodArgs struct {
+	Rod  impl.Rod
+	Ant  int
+	Time int
+	More impl.Ant
+	Text string
 }
 
-type rodCall struct {
-	name string
-	call func(args) ([]any, bool)
-}
-
-var rodCalls = []rodCall{
-	{"IsRod", func(a args) ([]any, bool) { return nil, impl.IsRod(a.rod) }},
-	{"RodAfter", func(a args) ([]any, bool) { x, ok := impl.RodAfter(a.rod, a.time); return []any{x}, ok }},
-	{"PlaceAfter", func(a args) ([]any, bool) { x, ok := impl.PlaceAfter(a.rod, a.ant, a.time); return []any{x}, ok }},
-	{"WayAfter", func(a args) ([]any, bool) { x, ok := impl.WayAfter(a.rod, a.ant, a.time); return []any{x}, ok }},
-	{"GhostsAfter", func(a args) ([]any, bool) { x, ok := impl.GhostsAfter(a.rod, a.time); return []any{x}, ok }},
-	{"FallTimes", func(a args) ([]any, bool) { x, ok := impl.FallTimes(a.rod); return []any{x}, ok }},
-	{"FallOf", func(a args) ([]any, bool) { x, y, ok := impl.FallOf(a.rod, a.ant); return []any{x, y}, ok }},
-	{"LastFall", func(a args) ([]any, bool) { x, ok := impl.LastFall(a.rod); return []any{x}, ok }},
-	{"LastAnts", func(a args) ([]any, bool) { x, ok := impl.LastAnts(a.rod); return []any{x}, ok }},
-	{"CountFalls", func(a args) ([]any, bool) { x, y, ok := impl.CountFalls(a.rod); return []any{x, y}, ok }},
-	{"CountMeetings", func(a args) ([]any, bool) { x, ok := impl.CountMeetings(a.rod); return []any{x}, ok }},
-	{"OnRodAfter", func(a args) ([]any, bool) { x, ok := impl.OnRodAfter(a.rod, a.time); return []any{x}, ok }},
-	{"MirrorRod", func(a args) ([]any, bool) { x, ok := impl.MirrorRod(a.rod); return []any{x}, ok }},
-	{"TurnWays", func(a args) ([]any, bool) { x, ok := impl.TurnWays(a.rod); return []any{x}, ok }},
-	{"AddAnt", func(a args) ([]any, bool) { x, ok := impl.AddAnt(a.rod, a.more); return []any{x}, ok }},
-	{"DropAnt", func(a args) ([]any, bool) { x, ok := impl.DropAnt(a.rod, a.ant); return []any{x}, ok }},
-	{"RodText", func(a args) ([]any, bool) { x, ok := impl.RodText(a.rod); return []any{x}, ok }},
-	{"ParseRod", func(a args) ([]any, bool) { x, ok := impl.ParseRod(a.text); return []any{x}, ok }},
-}
-
-// isZero takes a nil slice and an empty one for the same value.
-func isZero(x any) bool {
-	switch v := x.(type) {
-	case []int:
-		return len(v) == 0
-	case impl.Rod:
-		return v.Length == 0 && len(v.Ants) == 0
-	}
-	return reflect.ValueOf(x).IsZero()
-}
-
-// copyOf returns results in memory of their own, with nil for empty slices.
-func copyOf(results []any) []any {
-	var list []any
-	for _, x := range results {
-		switch v := x.(type) {
-		case []int:
-			x = append([]int(nil), v...)
-		case impl.Rod:
-			x = impl.Rod{Length: v.Length, Ants: append([]impl.Ant(nil), v.Ants...)}
-		}
-		list = append(list, x)
-	}
-	return list
-}
-
-// scribble writes over all memory of results, with what is behind their lengths.
-func scribble(results []any) {
-	for _, x := range results {
-		switch v := x.(type) {
-		case []int:
-			v = v[:cap(v)]
-			for i := range v {
-				v[i] = -77
-			}
-		case impl.Rod:
-			list := v.Ants[:cap(v.Ants)]
-			for i := range list {
-				list[i] = antAt(-77, -77)
-			}
-		}
-	}
-}
-
-// withRoom returns a rod whose ants have others behind their length, and all of them.
-func withRoom(r impl.Rod) (impl.Rod, []impl.Ant) {
-	all := slices.Concat(r.Ants, antsOf(0, -1, 2, 1, 5, 7, 1000, 1))
-	return impl.Rod{Length: r.Length, Ants: all[:len(r.Ants)]}, all
+var rodCalls = []namedCall[rodArgs]{
+	{"IsRod", func(a rodArgs) ([]any, bool) { return nil, impl.IsRod(a.Rod) }},
+	{"RodAfter", func(a rodArgs) ([]any, bool) { x, ok := impl.RodAfter(a.Rod, a.Time); return []any{x}, ok }},
+	{"PlaceAfter", func(a rodArgs) ([]any, bool) { x, ok := impl.PlaceAfter(a.Rod, a.Ant, a.Time); return []any{x}, ok }},
+	{"WayAfter", func(a rodArgs) ([]any, bool) { x, ok := impl.WayAfter(a.Rod, a.Ant, a.Time); return []any{x}, ok }},
+	{"GhostsAfter", func(a rodArgs) ([]any, bool) { x, ok := impl.GhostsAfter(a.Rod, a.Time); return []any{x}, ok }},
+	{"FallTimes", func(a rodArgs) ([]any, bool) { x, ok := impl.FallTimes(a.Rod); return []any{x}, ok }},
+	{"FallOf", func(a rodArgs) ([]any, bool) { x, y, ok := impl.FallOf(a.Rod, a.Ant); return []any{x, y}, ok }},
+	{"LastFall", func(a rodArgs) ([]any, bool) { x, ok := impl.LastFall(a.Rod); return []any{x}, ok }},
+	{"LastAnts", func(a rodArgs) ([]any, bool) { x, ok := impl.LastAnts(a.Rod); return []any{x}, ok }},
+	{"CountFalls", func(a rodArgs) ([]any, bool) { x, y, ok := impl.CountFalls(a.Rod); return []any{x, y}, ok }},
+	{"CountMeetings", func(a rodArgs) ([]any, bool) { x, ok := impl.CountMeetings(a.Rod); return []any{x}, ok }},
+	{"OnRodAfter", func(a rodArgs) ([]any, bool) { x, ok := impl.OnRodAfter(a.Rod, a.Time); return []any{x}, ok }},
+	{"MirrorRod", func(a rodArgs) ([]any, bool) { x, ok := impl.MirrorRod(a.Rod); return []any{x}, ok }},
+	{"TurnWays", func(a rodArgs) ([]any, bool) { x, ok := impl.TurnWays(a.Rod); return []any{x}, ok }},
+	{"AddAnt", func(a rodArgs) ([]any, bool) { x, ok := impl.AddAnt(a.Rod, a.More); return []any{x}, ok }},
+	{"DropAnt", func(a rodArgs) ([]any, bool) { x, ok := impl.DropAnt(a.Rod, a.Ant); return []any{x}, ok }},
+	{"RodText", func(a rodArgs) ([]any, bool) { x, ok := impl.RodText(a.Rod); return []any{x}, ok }},
+	{"ParseRod", func(a rodArgs) ([]any, bool) { x, ok := impl.ParseRod(a.Text); return []any{x}, ok }},
 }
 
 // noRods returns rods that are none.
@@ -111,112 +55,61 @@ func noRods() []impl.Rod {
 	return rods
 }
 
-// manyArgs returns arguments that are valid, that are not, and both mixed.
-func manyArgs(t *testing.T) []args {
+// manyRodArgs returns arguments that are valid, that are not, and both mixed.
+func manyRodArgs(t *testing.T) []rodArgs {
 	rods := noRods()
 	for _, s := range []string{"2:", "2:l0", "2:l0r2", "10:r2l6r8", "10:l0r0l10r10", "10:l4r4", "1000:r0l1000"} {
 		rods = append(rods, mustRod(t, s))
 	}
 	rods = append(rods, crowdedRod())
-	var list []args
+	var list []rodArgs
 	for _, r := range rods {
 		for _, ant := range append(badAnts(len(r.Ants)), 0, 1, 2, 15) {
-			for _, time := range append(badTimes, 0, 2, 8, 998, 1000, 2000) {
-				list = append(list, args{r, ant, time, antAt(ant, time), "10:r2l6"})
+			for _, time := range []int{math.MinInt, -2, 0, 1, 2, 8, 998, 1000, 1999, 2000, 2002, math.MaxInt} {
+				list = append(list, rodArgs{r, ant, time, antAt(ant, time), "10:r2l6"})
 			}
 		}
 		for _, a := range antsOf(0, -1, 0, 1, 4, 1, 6, -1, 3, 1, 500, 1) {
-			list = append(list, args{rod: r, more: a, text: "10:r2"})
+			list = append(list, rodArgs{Rod: r, More: a, Text: "10:r2"})
 		}
 	}
 	return list
 }
 
-func TestNoFunctionPanicsAndFailuresAreZero(t *testing.T) {
-	for _, a := range manyArgs(t) {
-		for _, c := range rodCalls {
-			results, ok := c.call(a)
-			for _, x := range results {
-				if !ok && !isZero(x) {
-					t.Fatalf("%s of %+v fails with %v", c.name, a, results)
-				}
-			}
-		}
-	}
+func TestRodsNeverPanicAndFailuresAreZero(t *testing.T) {
+	checkFailuresAreZero(t, rodCalls, manyRodArgs(t))
 }
 
-func TestNoFunctionChangesOrSharesArguments(t *testing.T) {
-	for _, a := range manyArgs(t) {
-		for _, c := range rodCalls {
-			roomy := a
-			var all []impl.Ant
-			roomy.rod, all = withRoom(a.rod)
-			before := slices.Clone(all)
-			want, fine := c.call(a)
-			want = copyOf(want)
-			got, ok := c.call(roomy)
-			if ok != fine || !reflect.DeepEqual(copyOf(got), want) {
-				t.Fatalf("%s of %+v is %v, %v with room, %v, %v without", c.name, a, got, ok, want, fine)
-			}
-			if !slices.Equal(all, before) {
-				t.Fatalf("%s of %+v changes its argument", c.name, a)
-			}
-			scribble(got)
-			if !slices.Equal(all, before) {
-				t.Fatalf("%s of %+v shares memory with its argument", c.name, a)
-			}
-			again, ok := c.call(a)
-			if ok != fine || !reflect.DeepEqual(copyOf(again), want) {
-				t.Fatalf("%s of %+v is another one at the second call", c.name, a)
-			}
-		}
-	}
+func TestRodsKeepArguments(t *testing.T) {
+	checkArgumentsAreKept(t, rodCalls, manyRodArgs(t))
 }
 
-// TestFunctionsThatRequireRods names those that fail for all rods that are none.
 func TestFunctionsThatRequireRods(t *testing.T) {
+	var list []rodArgs
 	for _, r := range noRods() {
-		for _, c := range rodCalls {
-			if c.name == "ParseRod" {
-				continue
-			}
-			if results, ok := c.call(args{rod: r, more: antAt(0, 1)}); ok {
-				t.Fatalf("%s of %v is %v", c.name, r, results)
-			}
-		}
+		list = append(list, rodArgs{Rod: r, More: antAt(0, 1)})
 	}
+	checkFails(t, rodCalls, list, namesBut(rodCalls, "ParseRod")...)
 }
 
 func TestFunctionsThatRequireTimes(t *testing.T) {
 	r := mustRod(t, "10:r2l6r8")
-	for _, c := range rodCalls {
-		if !slices.Contains([]string{"RodAfter", "PlaceAfter", "WayAfter", "GhostsAfter", "OnRodAfter"}, c.name) {
-			continue
-		}
-		for _, time := range badTimes {
-			if results, ok := c.call(args{rod: r, time: time}); ok {
-				t.Errorf("%s with the time %d is %v", c.name, time, results)
-			}
-		}
-		if results, ok := c.call(args{rod: r, time: 4}); !ok {
-			t.Errorf("%s with the time 4 is %v", c.name, results)
-		}
+	var list []rodArgs
+	for _, time := range badTimes {
+		list = append(list, rodArgs{Rod: r, Time: time})
 	}
+	names := []string{"RodAfter", "PlaceAfter", "WayAfter", "GhostsAfter", "OnRodAfter"}
+	checkFails(t, rodCalls, list, names...)
+	checkSucceeds(t, rodCalls, []rodArgs{{Rod: r, Time: 4}}, names...)
 }
 
 func TestFunctionsThatRequireAnts(t *testing.T) {
 	r := mustRod(t, "10:r2l6r8")
-	for _, c := range rodCalls {
-		if !slices.Contains([]string{"PlaceAfter", "WayAfter", "FallOf", "DropAnt"}, c.name) {
-			continue
-		}
-		for _, ant := range badAnts(len(r.Ants)) {
-			if results, ok := c.call(args{rod: r, ant: ant}); ok {
-				t.Errorf("%s of the ant %d is %v", c.name, ant, results)
-			}
-		}
-		if results, ok := c.call(args{rod: r, ant: 2}); !ok {
-			t.Errorf("%s of the ant 2 is %v", c.name, results)
-		}
+	var list []rodArgs
+	for _, ant := range badAnts(len(r.Ants)) {
+		list = append(list, rodArgs{Rod: r, Ant: ant})
 	}
+	names := []string{"PlaceAfter", "WayAfter", "FallOf", "DropAnt"}
+	checkFails(t, rodCalls, list, names...)
+	checkSucceeds(t, rodCalls, []rodArgs{{Rod: r, Ant: 2}}, names...)
 }

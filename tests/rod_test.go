@@ -187,7 +187,7 @@ func TestRodWithNoAnts(t *testing.T) {
 			t.Error("IsRod", r)
 		}
 		for _, c := range rodCalls {
-			for _, in := range []args{{rod: r, ant: 0, time: 0}, {rod: r, ant: 0, time: 2000}} {
+			for _, in := range []rodArgs{{Rod: r, Ant: 0, Time: 0}, {Rod: r, Ant: 0, Time: 2000}} {
 				want := !slices.Contains([]string{"PlaceAfter", "WayAfter", "FallOf", "DropAnt", "ParseRod", "AddAnt"}, c.name)
 				out, ok := c.call(in)
 				if ok != want {
@@ -264,7 +264,8 @@ func isRodByPlaces(r impl.Rod) bool {
 	return slices.IsSortedFunc(r.Ants, func(a, b impl.Ant) int { return a.At - b.At })
 }
 
-func TestIsRodOfAnyNumbers(t *testing.T) {
+// eachFewAnts runs a check with small lengths and lists of up to three ants, valid or not.
+func eachFewAnts(check func(length int, list ...impl.Ant)) {
 	var ants []impl.Ant
 	for at := -2; at <= 6; at++ {
 		for way := -2; way <= 2; way++ {
@@ -272,22 +273,25 @@ func TestIsRodOfAnyNumbers(t *testing.T) {
 		}
 	}
 	for length := -2; length <= 6; length++ {
-		check := func(list ...impl.Ant) {
-			r := impl.Rod{Length: length, Ants: list}
-			if got, want := impl.IsRod(r), isRodByPlaces(r); got != want {
-				t.Fatalf("IsRod(%v) = %v", r, got)
-			}
-		}
-		check()
+		check(length)
 		for _, a := range ants {
-			check(a)
+			check(length, a)
 			for _, b := range ants {
-				check(a, b)
-				check(antAt(2, -1), a, b)
-				check(a, antAt(2, 1), b)
+				check(length, a, b)
+				check(length, antAt(2, -1), a, b)
+				check(length, a, antAt(2, 1), b)
 			}
 		}
 	}
+}
+
+func TestIsRodOfAnyNumbers(t *testing.T) {
+	eachFewAnts(func(length int, list ...impl.Ant) {
+		r := impl.Rod{Length: length, Ants: list}
+		if got, want := impl.IsRod(r), isRodByPlaces(r); got != want {
+			t.Fatalf("IsRod(%v) = %v", r, got)
+		}
+	})
 }
 
 func TestIsRodOfGreatNumbers(t *testing.T) {
@@ -456,33 +460,47 @@ func isRodTextByForm(s string) bool {
 	return isRodByPlaces(r)
 }
 
-func TestEveryShortText(t *testing.T) {
+// eachShortText runs a check with all texts of at most 5 of some signs.
+func eachShortText(signs string, check func(s string)) {
 	list := []string{""}
 	for range 6 {
 		var longer []string
 		for _, s := range list {
-			if _, ok := impl.ParseRod(s); ok != isRodTextByForm(s) {
-				t.Fatalf("ParseRod(%q): %v", s, ok)
-			}
-			for _, c := range "0123468:lr-+ x" {
-				longer = append(longer, s+string(c))
+			check(s)
+			for _, sign := range signs {
+				longer = append(longer, s+string(sign))
 			}
 		}
 		list = longer
 	}
 }
 
-// TestTextsWithOneSignChanged changes each sign of texts that tell rods.
+// withOneSignChanged returns the texts that come from one if a sign is replaced, put in or taken out.
+func withOneSignChanged(s string, signs string) []string {
+	var texts []string
+	for i := range s {
+		texts = append(texts, s[:i]+s[i+1:])
+		for _, sign := range signs {
+			texts = append(texts, s[:i]+string(sign)+s[i+1:], s[:i]+string(sign)+s[i:], s+string(sign))
+		}
+	}
+	return texts
+}
+
+func TestEveryShortText(t *testing.T) {
+	eachShortText("0123468:lr-+ x", func(s string) {
+		if _, ok := impl.ParseRod(s); ok != isRodTextByForm(s) {
+			t.Fatalf("ParseRod(%q): %v", s, ok)
+		}
+	})
+}
+
 func TestTextsWithOneSignChanged(t *testing.T) {
 	for _, s := range []string{"10:r2l6r8", "1000:l4r4l500r1000", "2:l0r0l2r2"} {
-		for i := range s {
-			for _, c := range "0123456789:lr-+ x" {
-				for _, changed := range []string{s[:i] + string(c) + s[i+1:], s[:i] + string(c) + s[i:], s[:i] + s[i+1:]} {
-					r, ok := impl.ParseRod(changed)
-					if ok != isRodTextByForm(changed) || ok && textOf(r) != changed {
-						t.Fatalf("ParseRod(%q) = %v, %v", changed, r, ok)
-					}
-				}
+		for _, changed := range withOneSignChanged(s, "0123456789:lr-+ x") {
+			r, ok := impl.ParseRod(changed)
+			if ok != isRodTextByForm(changed) || ok && textOf(r) != changed {
+				t.Fatalf("ParseRod(%q) = %v, %v", changed, r, ok)
 			}
 		}
 	}
