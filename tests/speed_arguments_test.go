@@ -69,6 +69,11 @@ func goodTimes() []impl.Moment {
 	return fractions(0, 1, 1, 1, 2, 1, 5, 2, 50, 1, 1, 1000, 999999, 1000, 1000000, 999, 1000000, 1)
 }
 
+// tooGreatPaces returns paces beyond the limit of a pace.
+func tooGreatPaces() []int {
+	return []int{10, -10, 11, -11, 18, -18, 19, -19, 1000, -1000, math.MinInt, math.MinInt + 9, math.MaxInt - 9, math.MaxInt}
+}
+
 func badRunners(n int) []int { return []int{math.MinInt, -1, n, n + 1, impl.MaxRunners, math.MaxInt} }
 
 // manySpeedArgs returns arguments that are valid, that are not, and both mixed.
@@ -82,7 +87,7 @@ func manySpeedArgs() []speedArgs {
 		for _, k := range append(badRunners(len(list)), 0, 1, 11) {
 			all = append(all, speedArgs{List: list, Time: moment(2, 1), K: k})
 		}
-		for _, pace := range []int{math.MinInt, -19, -18, -9, -1, 0, 1, 9, 18, 19, math.MaxInt} {
+		for _, pace := range append(tooGreatPaces(), -9, -1, 0, 1, 9) {
 			all = append(all, speedArgs{List: list, Time: moment(5, 2), Pace: pace})
 		}
 	}

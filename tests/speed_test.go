@@ -170,7 +170,7 @@ func TestSumsAreKept(t *testing.T) {
 // Who watches from a pace sees the same meetings, and each place less by the way gone.
 func TestRunnersThatAreWatched(t *testing.T) {
 	eachRace(t, func(list []impl.Runner, w race) {
-		for _, pace := range []int{-18, -9, -2, -1, 0, 1, 3, 9, 18} {
+		for _, pace := range []int{-9, -2, -1, 0, 1, 3, 9} {
 			var want []impl.Runner
 			for _, r := range list {
 				want = append(want, impl.Runner{At: r.At, Pace: r.Pace - pace})
@@ -223,8 +223,7 @@ func TestNoRunners(t *testing.T) {
 				t.Error(c.name, "of no runners is", out)
 			}
 		}
-		// There is none whose pace could become too great.
-		for _, pace := range []int{-19, 19, math.MinInt, math.MaxInt} {
+		for pace := -impl.MaxPace; pace <= impl.MaxPace; pace++ {
 			wantList(t, "WatchFrom", runnersOf())(impl.WatchFrom(list, pace))
 		}
 	}
@@ -433,19 +432,34 @@ func TestLimitsOfRunnersMetExactly(t *testing.T) {
 	}
 }
 
+func TestWatchersWithTheGreatestPace(t *testing.T) {
+	wantList(t, "WatchFrom 9", runnersOf(5, 0))(impl.WatchFrom(runnersOf(5, 9), 9))
+	wantList(t, "WatchFrom -9", runnersOf(5, 0))(impl.WatchFrom(runnersOf(5, -9), -9))
+	wantList(t, "WatchFrom 9", runnersOf(0, -9, 4, -8, 1000, 0))(impl.WatchFrom(runnersOf(0, 0, 4, 1, 1000, 9), 9))
+	wantList(t, "WatchFrom -9", runnersOf(0, 9, 4, 8, 1000, 0))(impl.WatchFrom(runnersOf(0, 0, 4, -1, 1000, -9), -9))
+}
+
+// The pace of who watches has a limit, whatever paces the runners seem to have then.
 func TestWatchersWithTooGreatAPace(t *testing.T) {
+	for _, list := range [][]impl.Runner{
+		nil, {}, runnersOf(3, 3), runnersOf(5, 9), runnersOf(5, -9), runnersOf(0, 9, 4, 9), runnersOf(0, -9, 1000, -1), runnersOf(0, 1, 4, 9), runnersOf(0, 0), bunch(impl.MaxRunners),
+	} {
+		for _, pace := range tooGreatPaces() {
+			wantNone[[]impl.Runner](t, "WatchFrom")(impl.WatchFrom(list, pace))
+		}
+	}
+}
+
+func TestRunnersWhoSeemToHaveTooGreatAPace(t *testing.T) {
 	fast, slow, both := runnersOf(0, 9, 4, 9), runnersOf(0, -9), runnersOf(0, 9, 4, -9)
-	wantList(t, "WatchFrom 18", runnersOf(0, -9, 4, -9))(impl.WatchFrom(fast, 18))
-	wantList(t, "WatchFrom -18", runnersOf(0, 9))(impl.WatchFrom(slow, -18))
 	wantList(t, "WatchFrom 0", both)(impl.WatchFrom(both, 0))
 	for _, c := range []struct {
 		list  []impl.Runner
 		paces []int
 	}{
-		{fast, []int{-1, 19, 1000, -1000}}, {slow, []int{1, -19}}, {both, []int{-1, 1, 9, -9, 18}}, {runnersOf(0, 0, 1, 1), []int{10, -9, -10, 11}},
+		{fast, []int{-1, -9}}, {slow, []int{1, 9}}, {both, []int{-1, 1, 9, -9}}, {runnersOf(0, 0, 1, 1), []int{-9}}, {runnersOf(0, -1, 1, 0), []int{9}},
 		// A list that is none does not become runners for who watches.
-		{runnersOf(4, 10), []int{1, 10, 19}}, {runnersOf(4, -10), []int{-1, -10, -19}}, {runnersOf(4, math.MaxInt), []int{math.MaxInt}}, {runnersOf(4, math.MinInt), []int{math.MinInt}},
-		{fast, []int{math.MinInt, math.MaxInt, math.MinInt + 9}}, {slow, []int{math.MinInt, math.MaxInt, math.MaxInt - 9}}, {both, []int{math.MinInt, math.MaxInt}},
+		{runnersOf(4, 10), []int{1, 9, 10, 19}}, {runnersOf(4, -10), []int{-1, -9, -10, -19}}, {runnersOf(4, math.MaxInt), []int{9, math.MaxInt}}, {runnersOf(4, math.MinInt), []int{-9, math.MinInt}},
 	} {
 		for _, pace := range c.paces {
 			wantNone[[]impl.Runner](t, "WatchFrom")(impl.WatchFrom(c.list, pace))
