@@ -2,8 +2,10 @@ package tests
 
 import (
 	"reflect"
+	"runtime"
 	"slices"
 	"testing"
+	"time"
 )
 
 // namedCall is a function of the program, called with arguments of a kind. The last
@@ -241,4 +243,16 @@ func namesBut[A any](calls []namedCall[A], but ...string) []string {
 		}
 	}
 	return names
+}
+
+// waitForGoroutines looks that soon there are no more goroutines than there were before.
+func waitForGoroutines(t *testing.T, before int) {
+	t.Helper()
+	for range 100 {
+		if runtime.NumGoroutine() <= before {
+			return
+		}
+		time.Sleep(10 * time.Millisecond)
+	}
+	t.Error(runtime.NumGoroutine(), "goroutines, not", before)
 }

@@ -4,7 +4,6 @@ import (
 	"runtime"
 	"slices"
 	"testing"
-	"time"
 
 	"loop.example/g01270/impl"
 )
@@ -386,11 +385,5 @@ func TestNewsIsStopped(t *testing.T) {
 			}
 		}
 	}
-	for range 100 {
-		if runtime.NumGoroutine() <= before {
-			return
-		}
-		time.Sleep(10 * time.Millisecond)
-	}
-	t.Error(runtime.NumGoroutine(), "goroutines, not", before)
+	waitForGoroutines(t, before)
 }
