@@ -121,7 +121,7 @@ func TestFunctionsThatRequireWords(t *testing.T) {
 	for _, w := range longWords() {
 		good = append(good, wordArgs{Word: w, Steps: 20})
 	}
-	names := namesBut(wordCalls, append(namesWithSigns, "WordOfNumbers", "RankOfWord", "WordsBefore")...)
+	names := namesBut(wordCalls, append(namesWithSigns, "WordOfNumbers", "WordsBefore")...)
 	checkSucceeds(t, wordCalls, good, names...)
 }
 
@@ -167,20 +167,14 @@ func TestFunctionsThatRequireMeetingsOfWords(t *testing.T) {
 	}
 }
 
-// A rank is asked of words with at most 7 of each sign, as a word is asked of a rank.
-func TestRanksRequireFewOfEachSign(t *testing.T) {
+// Only numbers of l and r that are arguments are at most 7: a word itself may have more of
+// one sign.
+func TestRanksTakeAllWords(t *testing.T) {
 	for lefts := range impl.MaxWord + 1 {
 		for rights := range impl.MaxWord + 1 - lefts {
-			few := lefts <= 7 && rights <= 7
 			rest := strings.Repeat("l", lefts) + strings.Repeat("r", rights)
 			last := strings.Repeat("r", rights) + strings.Repeat("l", lefts)
-			for _, w := range []string{rest, last} {
-				if few {
-					checkSucceeds(t, wordCalls, []wordArgs{{Word: w}}, "RankOfWord")
-				} else {
-					wantNone[int](t, "RankOfWord "+w)(impl.RankOfWord(w))
-				}
-			}
+			checkSucceeds(t, wordCalls, []wordArgs{{Word: rest}, {Word: last}}, "RankOfWord")
 		}
 	}
 }

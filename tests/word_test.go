@@ -173,14 +173,19 @@ func TestAllWordsAreListedInOrder(t *testing.T) {
 }
 
 func TestRanksCountWordsBefore(t *testing.T) {
-	for s, words := range wordsBySigns(7) {
+	for s, words := range wordsBySigns(impl.MaxWord) {
+		few := s.lefts <= 7 && s.rights <= 7
 		for rank, w := range words {
 			// Of the words with the most signs some are enough.
 			if len(words) > 300 && rank > 20 && rank < len(words)-20 && rank%37 != 0 {
 				continue
 			}
 			wantOne(t, "RankOfWord", rank)(impl.RankOfWord(w))
-			wantOne(t, "WordOfRank", w)(impl.WordOfRank(s.lefts, s.rights, rank))
+			if few {
+				wantOne(t, "WordOfRank", w)(impl.WordOfRank(s.lefts, s.rights, rank))
+			} else {
+				wantNone[string](t, "WordOfRank")(impl.WordOfRank(s.lefts, s.rights, rank))
+			}
 		}
 		for _, rank := range []int{-1, len(words), len(words) + 1} {
 			wantNone[string](t, "WordOfRank")(impl.WordOfRank(s.lefts, s.rights, rank))
@@ -194,6 +199,18 @@ func TestRanksCountWordsBefore(t *testing.T) {
 	wantOne(t, "the last rank", 3431)(impl.RankOfWord("rrrrrrrlllllll"))
 	wantOne(t, "the empty word", 0)(impl.RankOfWord(""))
 	wantOne(t, "the empty word", "")(impl.WordOfRank(0, 0, 0))
+}
+
+func TestRanksOfWordsWithManyOfASign(t *testing.T) {
+	for w, rank := range map[string]int{
+		"llllllll": 0, "rrrrrrrr": 0, "lrrrrrrrr": 0, "rrrrrrrrl": 8, "rllllllll": 8, "llrllllll": 6, "rlrrrrrrrr": 1, "rrlrrrrrrr": 2,
+		"llllllllrrrrrr": 0, "rrrrrrrrllllll": 3002, "rrrrrrllllllll": 3002, "rrrrrrrrrrrrrl": 13, "rlllllllllllll": 13, "llllllllllllll": 0, "rrrrrrrrrrrrrr": 0,
+	} {
+		wantOne(t, "RankOfWord "+w, rank)(impl.RankOfWord(w))
+	}
+	for _, w := range []string{strings.Repeat("l", 15), strings.Repeat("r", 15), "rrrrrrrrlllllll", "llllllllx"} {
+		wantNone[int](t, "RankOfWord "+w)(impl.RankOfWord(w))
+	}
 }
 
 func TestWordsBeforeAreThoseThatStepThere(t *testing.T) {

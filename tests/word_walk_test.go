@@ -104,10 +104,11 @@ func signsOf(w string) signs {
 	return s
 }
 
-// wordsBySigns returns all words with at most so many l and as many r, in the order of texts.
+// wordsBySigns returns all words of at most MaxWord signs with at most so many l and as many r,
+// in the order of texts.
 func wordsBySigns(most int) map[signs][]string {
 	sorted := map[signs][]string{}
-	for length := range 2*most + 1 {
+	for length := range min(2*most, impl.MaxWord) + 1 {
 		for _, w := range wordsOfLength(length) {
 			if s := signsOf(w); s.lefts <= most && s.rights <= most {
 				sorted[s] = append(sorted[s], w)
